@@ -91,3 +91,30 @@ func readGroups(b []byte, at int) (int, int, bool) {
 	}
 	return 0, 0, false
 }
+
+// reader goes through bytes from the front; once something is not there, it is bad, and all it reads is zero.
+type reader struct {
+	b   []byte
+	at  int
+	bad bool
+}
+
+func (r *reader) num() int {
+	n, next, ok := GetNum(r.b, r.at)
+	if r.bad || !ok {
+		r.bad = true
+		return 0
+	}
+	r.at = next
+	return n
+}
+
+func (r *reader) text() string {
+	s, next, ok := GetText(r.b, r.at)
+	if r.bad || !ok {
+		r.bad = true
+		return ""
+	}
+	r.at = next
+	return s
+}
