@@ -281,6 +281,194 @@ func TestSortEndsOnWhatDoesNot(t *testing.T) {
 	}
 }
 
+// doubledTerm: the innermost in a list twice, that in a list twice .., so many times around; each list is there once, and shared.
+func doubledTerm(times int, inner impl.Term) impl.Term {
+	for range times {
+		inner = listTerm(inner, inner)
+	}
+	return inner
+}
+
+// TestTermsHaveNoLimit: what is asked of any term is told however deep it is.
+func TestTermsHaveNoLimit(t *testing.T) {
+	const deep = 1100000
+	x, y := nestedTerm(impl.TTuple, deep, intTerm(1)), nestedTerm(impl.TTuple, deep, intTerm(2))
+	if n := impl.CountOf(x); n != deep+1 {
+		t.Error(n, "in all")
+	}
+	if d := impl.DepthOf(y); d != deep+1 {
+		t.Error(d, "deep")
+	}
+	if impl.SameTerm(x, y) {
+		t.Error("two that are unlike at", deep, "are the same")
+	}
+	sorted := impl.SortTerms([]impl.Term{y, x})
+	for i, last := range []int{1, 2} {
+		inner := sorted[i]
+		around := 0
+		for len(inner.L) > 0 {
+			inner = inner.L[0]
+			around++
+		}
+		if around != deep || inner.N != last {
+			t.Error(i, "sorted:", inner.N, "within", around)
+		}
+	}
+}
+
+// TestWideTermsHaveNoLimit: the same, however many stand side by side.
+func TestWideTermsHaveNoLimit(t *testing.T) {
+	row := make([]impl.Term, 4000002)
+	for i := range row {
+		row[i] = intTerm(3)
+	}
+	x, y := listTerm(row[:4000001]...), listTerm(row...)
+	if n, d := impl.CountOf(x), impl.DepthOf(x); n != 4000002 || d != 2 {
+		t.Error(n, "in all,", d, "deep")
+	}
+	if impl.SameTerm(x, y) || !impl.LessTerm(x, y) {
+		t.Error("the last one does not count")
+	}
+	if sorted := impl.SortTerms([]impl.Term{x}); len(sorted[0].L) != 4000001 || sorted[0].L[4000000].N != 3 {
+		t.Error(len(sorted[0].L), "of 4000001 are sorted")
+	}
+}
+
+// TestTermsThatShareOften: these are far too great to go through, but have an end.
+func TestTermsThatShareOften(t *testing.T) {
+	for _, times := range []int{3, 30, 61, 62, 63, 64, 200} {
+		x, same := doubledTerm(times, intTerm(1)), doubledTerm(times, intTerm(1))
+		want := math.MaxInt
+		if times < 62 {
+			want = 1<<(times+1) - 1
+		}
+		if n, d := impl.CountOf(x), impl.DepthOf(x); n != want || d != times+1 {
+			t.Error(times, "around:", n, "in all,", d, "deep")
+		}
+		more, deeper := doubledTerm(times, intTerm(2)), doubledTerm(times+1, intTerm(1))
+		if !impl.SameTerm(x, same) || impl.LessTerm(x, same) {
+			t.Error(times, "around: not the same")
+		}
+		if impl.SameTerm(x, more) || !impl.LessTerm(x, more) || !impl.LessTerm(x, deeper) || impl.LessTerm(deeper, x) {
+			t.Error(times, "around: out of order")
+		}
+		last := listTerm(x, listTerm(x, more))
+		if impl.SameTerm(listTerm(x, listTerm(x, same)), last) || !impl.LessTerm(listTerm(same, listTerm(x, x)), last) {
+			t.Error(times, "around: the last one does not count")
+		}
+	}
+	wide, count := intTerm(1), 1
+	for range 7 {
+		wide, count = listTerm(timesTerm(60, wide)...), 60*count+1
+	}
+	if n, d := impl.CountOf(wide), impl.DepthOf(wide); n != count || d != 8 {
+		t.Error(n, "in all,", d, "deep, not", count)
+	}
+}
+
+// TestTermsOfPieces: lists that begin at one place, but are not as long, are not one list.
+func TestTermsOfPieces(t *testing.T) {
+	row := timesTerm(700, intTerm(1))
+	var pieces, apart []impl.Term
+	count := 1
+	for size := range 700 {
+		pieces = append(pieces, listTerm(row[:size]...))
+		apart = append(apart, listTerm(timesTerm(size, intTerm(1))...))
+		count += 1 + size
+	}
+	x, y := listTerm(pieces...), listTerm(apart...)
+	if n := impl.CountOf(x); n != count {
+		t.Error(n, "in all, not", count)
+	}
+	if !impl.SameTerm(x, y) {
+		t.Error("pieces are not the same as lists apart")
+	}
+	swapped := listTerm(append(timesTerm(698, listTerm(row...)), pieces[698], pieces[699])...)
+	other := listTerm(append(timesTerm(698, listTerm(row...)), pieces[698], pieces[698])...)
+	if impl.SameTerm(swapped, other) || !impl.LessTerm(other, swapped) {
+		t.Error("a piece is the same as a longer one")
+	}
+	far := doubledTerm(40, listTerm(pieces[3], pieces[5]))
+	if sorted := impl.SortTerms([]impl.Term{far}); !impl.SameTerm(sorted[0], far) || impl.SameTerm(sorted[0], doubledTerm(40, listTerm(pieces[3], pieces[3]))) {
+		t.Error("pieces are not sorted whole")
+	}
+}
+
+func TestSortOfTermsThatShareOften(t *testing.T) {
+	for _, times := range []int{10, 40, 100} {
+		x, kept := doubledTerm(times, intTerm(1)), doubledTerm(times, intTerm(1))
+		sorted := impl.SortTerms([]impl.Term{x, intTerm(0)})
+		if len(sorted) != 2 || !impl.SameTerm(sorted[1], kept) {
+			t.Fatal(times, "around: sorted is not the same")
+		}
+		for l := x.L; len(l) > 0; l = l[0].L {
+			l[1] = intTerm(77)
+		}
+		if !impl.SameTerm(sorted[1], kept) {
+			t.Error(times, "around: sorted shares memory with its argument")
+		}
+	}
+	x := doubledTerm(12, intTerm(1))
+	sorted := impl.SortTerms([]impl.Term{x})
+	sorted[0].L[0].L[0].L[0] = intTerm(5)
+	if !impl.SameTerm(sorted[0].L[1], x.L[1]) || !impl.SameTerm(sorted[0].L[0].L[1], x.L[1].L[1]) {
+		t.Error("two lists of what is sorted share memory")
+	}
+}
+
+// roundTerm: lists that hold each other in a ring, each with a number behind; without an end.
+func roundTerm(nums ...int) impl.Term {
+	ring := make([]impl.Term, len(nums))
+	for i := range ring {
+		ring[i] = listTerm(intTerm(0), intTerm(nums[i]))
+	}
+	for i := range ring {
+		ring[i].L[0] = ring[(i+1)%len(ring)]
+	}
+	return ring[0]
+}
+
+// TestOrderOfTermsWithoutEnd: those that are alike however far one goes are the same, and of others one is less.
+func TestOrderOfTermsWithoutEnd(t *testing.T) {
+	if n, d := impl.CountOf(roundTerm(1, 2)), impl.DepthOf(roundTerm(1, 2)); n != math.MaxInt || d != math.MaxInt {
+		t.Error(n, "in all,", d, "deep")
+	}
+	long := make([]int, 500)
+	for i := range long {
+		long[i] = 7
+	}
+	seven := roundTerm(long...)
+	long[450] = 8
+	for _, x := range []struct {
+		a, b impl.Term
+		same bool
+	}{
+		{roundTerm(7), roundTerm(7), true},
+		{roundTerm(7), roundTerm(7, 7), true},
+		{roundTerm(7, 7, 7), roundTerm(7, 7), true},
+		{roundTerm(1, 2), roundTerm(1, 2, 1, 2, 1, 2), true},
+		{roundTerm(7), seven, true},
+		{roundTerm(7), roundTerm(8), false},
+		{roundTerm(1, 2), roundTerm(2, 1), false},
+		{roundTerm(1, 2), roundTerm(1, 2, 1), false},
+		{roundTerm(7), roundTerm(long...), false},
+		{seven, roundTerm(long...), false},
+		{roundTerm(7), nestedTerm(impl.TList, 2000, intTerm(7)), false},
+		{roundTerm(7), doubledTerm(2000, intTerm(7)), false},
+	} {
+		less, more := impl.LessTerm(x.a, x.b), impl.LessTerm(x.b, x.a)
+		if impl.SameTerm(x.a, x.b) != x.same || less && more || x.same == (less || more) {
+			t.Errorf("same %v: %v, %v, %v", x.same, impl.SameTerm(x.a, x.b), less, more)
+		}
+	}
+	x := roundTerm(3, 4)
+	sorted := impl.SortTerms([]impl.Term{x})
+	x.L[0].L[1].N = 5
+	if !impl.SameTerm(sorted[0], roundTerm(3, 4)) || !impl.SameTerm(x, roundTerm(3, 5)) {
+		t.Error("one without end is not sorted whole, or shares memory")
+	}
+}
+
 func TestGetTermWrong(t *testing.T) {
 	for _, s := range []string{
 		"", "\x00", "\x00\x00", "\x02", "\x04", "\x06", "\x08", "\x0a", // nothing, a kind of 0, kinds alone
