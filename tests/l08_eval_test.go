@@ -205,7 +205,7 @@ func came(x impl.Term, code int) string {
 	return []string{"", "FORM", "MATCH", "ARITH", "BIG", "DEEP", "FUEL"}[code]
 }
 
-// comesBy: the first function of a module comes to this with just so much fuel, and to nothing with any less.
+// comesBy: the first function of a module comes to this with just so much fuel, and to nothing with any less; so it does when it is compiled.
 func comesBy(t *testing.T, m impl.Module, args []impl.Term, fuel int, want string) {
 	t.Helper()
 	name := m.Funs[0].Name
@@ -224,6 +224,7 @@ func comesBy(t *testing.T, m impl.Module, args []impl.Term, fuel int, want strin
 	}
 	staysSame(t, m, name, args, fuel)
 	staysSame(t, m, name, args, fuel-1)
+	runsAs(t, m, name, args, want)
 }
 
 // comes: likewise, of texts.
