@@ -896,8 +896,7 @@ func TestCodeBytesShareNoMemory(t *testing.T) {
 }
 
 // endlessPats: patterns that are very deep, share very often, or have no end; each call makes new ones.
-func endlessPats() []impl.Pat {
-	const deep = 100000
+func endlessPats(deep int) []impl.Pat {
 	ring := []impl.Pat{intP(1), {K: impl.XTuple}}
 	ring[1].E = ring
 	alone := []impl.Pat{{K: impl.XList}}
@@ -919,8 +918,8 @@ func endlessPats() []impl.Pat {
 func TestCodeBytesEndOnAnyCode(t *testing.T) {
 	const deep = 100000
 	fns := []impl.Fn{fnOf("f", 0, 0, "int 1; match 1 3; fail; ret")}
-	others := endlessPats()
-	for i, p := range endlessPats() {
+	others := endlessPats(100000)
+	for i, p := range endlessPats(100000) {
 		for _, pats := range [][]impl.Pat{{p}, {slotP(0), slotP(-1), p}, {p, slotP(-1)}, {slotP(-1), p}, timesP(2000, p), timesP(2001, p), {intP(1), tupleP(slotP(-1), p)}} {
 			for _, c := range []impl.Code{{Pats: pats}, {Fns: fns, Pats: pats}} {
 				if b := impl.PutCode(c); len(b) > 0 {
